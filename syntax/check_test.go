@@ -319,7 +319,7 @@ func TestCheckDepth(t *testing.T) {
 func TestCheckDrawn(t *testing.T) {
 	d := draws(7)
 	seen := map[bool]int{}
-	for range 20000 {
+	for range 8000 {
 		sound := d.term(d.below([]int{3, 10, 30}[d.below(3)]))
 		for _, x := range []api.Term{sound, d.soiled(sound), d.soiled(sound)} {
 			want := modelCheck(x)
@@ -334,7 +334,7 @@ func TestCheckDrawn(t *testing.T) {
 			}
 		}
 	}
-	if seen[true] < 20000 || seen[false] < 10000 {
+	if seen[true] < 8000 || seen[false] < 4000 {
 		t.Errorf("drawn: %v", seen)
 	}
 }

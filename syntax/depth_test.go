@@ -195,7 +195,7 @@ func TestBlanks(t *testing.T) {
 func TestBeginnings(t *testing.T) {
 	d := draws(6)
 	taken, refused := 0, 0
-	for range 600 {
+	for range 300 {
 		s := " = " + strings.Join(cut(written(d.term(d.below(20)))), d.one("", " "))
 		if _, _, errno := syntax.Parse(s); errno != api.OK {
 			continue

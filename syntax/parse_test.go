@@ -322,7 +322,7 @@ func TestTokenRows(t *testing.T) {
 func TestDrawn(t *testing.T) {
 	d := draws(1)
 	seen := map[api.Errno]int{}
-	for range 6000 {
+	for range 4000 {
 		term := d.term(d.below([]int{4, 12, 40}[d.below(3)]))
 		s := "=" + written(term)
 		got, errno := check(t, s)
@@ -353,7 +353,7 @@ func TestDrawn(t *testing.T) {
 func TestDrawnDeep(t *testing.T) {
 	d := draws(2)
 	seen := map[api.Errno]int{}
-	for range 10000 {
+	for range 5000 {
 		s, closing := "=", ""
 		for range 34 + d.below(30) {
 			switch d.below(7) {
@@ -377,7 +377,7 @@ func TestDrawnDeep(t *testing.T) {
 		_, errno := check(t, s)
 		seen[errno]++
 	}
-	if seen[api.OK] < 2000 || seen[api.ErrNested] < 2000 || seen[api.ErrSyntax] < 500 {
+	if seen[api.OK] < 500 || seen[api.ErrNested] < 1000 || seen[api.ErrSyntax] < 200 {
 		t.Errorf("drawn: %v", seen)
 	}
 }
