@@ -37,9 +37,12 @@ func factors(n, step int) float64 {
 	return r
 }
 
+// canChoose tells whether k of n things can be chosen; n isn't below 0 then, either.
+func canChoose(n, k float64) bool { return k >= 0 && k <= n }
+
 // combinations is in how many ways k of n things are chosen.
 func combinations(n, k float64) api.Value {
-	if k < 0 || k > n || n > mostChosen {
+	if !canChoose(n, k) || n > mostChosen {
 		return noNumber()
 	}
 	k = min(k, n-k)
@@ -52,7 +55,10 @@ func combinations(n, k float64) api.Value {
 
 // repeated is in how many ways k of n things are chosen, each of them any number of times.
 func repeated(n, k float64) api.Value {
-	if n == 0 && k == 0 {
+	switch {
+	case !canChoose(n, k):
+		return noNumber()
+	case n == 0:
 		return value.Num(1)
 	}
 	return combinations(n+k-1, k)
@@ -60,7 +66,7 @@ func repeated(n, k float64) api.Value {
 
 // permutations is in how many ways k of n things are put in a row.
 func permutations(n, k float64) api.Value {
-	if k < 0 || k > n || n > mostChosen {
+	if !canChoose(n, k) || n > mostChosen {
 		return noNumber()
 	}
 	r := 1.0

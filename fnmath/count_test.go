@@ -49,9 +49,9 @@ func TestCombinations(t *testing.T) {
 		for k := range n + 1 {
 			want := floatOf(new(big.Int).Binomial(n, k))
 			wantSome(t, some{"COMBIN", just(float64(n), float64(k)), want})
-			if n > 0 || k > 0 {
+			if own := n - k + 1; own >= max(k, 1) {
 				// k of n - k + 1, each any number of times
-				wantSome(t, some{"COMBINA", just(float64(n-k+1), float64(k)), want})
+				wantSome(t, some{"COMBINA", just(float64(own), float64(k)), want})
 			}
 		}
 	}
@@ -67,7 +67,7 @@ func TestCombinations(t *testing.T) {
 	}
 	wantSome(t,
 		some{"COMBIN", just(1000, 1000), 1}, some{"COMBIN", just(1000.9, 0.9), 1}, some{"COMBIN", just(1000, 500), 2.7028824094543666e299}, some{"COMBIN", just(0, 0), 1},
-		some{"COMBINA", just(0, 0), 1}, some{"COMBINA", just(3, 2), 6}, some{"COMBINA", just(2, 3), 4}, some{"COMBINA", just(1, 1000), 1}, some{"COMBINA", just(1001, 0), 1}, some{"COMBINA", just(1000, 1), 1000}, some{"COMBINA", just(0.5, 0.5), 1},
+		some{"COMBINA", just(0, 0), 1}, some{"COMBINA", just(3, 2), 6}, some{"COMBINA", just(3, 3), 10}, some{"COMBINA", just(1, 1), 1}, some{"COMBINA", just(1, 0), 1}, some{"COMBINA", just(501, 500), 2.7028824094543666e299}, some{"COMBINA", just(1001, 0), 1}, some{"COMBINA", just(1000, 1), 1000}, some{"COMBINA", just(0.5, 0.5), 1},
 		// the product first, and then the quotient: other ways have other last bits
 		some{"COMBIN", just(57, 28), 1.5033633249770518e16}, some{"COMBIN", just(69, 20), 1.1563185975904136e17}, some{"COMBIN", just(69, 49), 1.1563185975904136e17},
 	)
@@ -75,7 +75,7 @@ func TestCombinations(t *testing.T) {
 		wantFault(t, "COMBIN", api.ENum, x...)
 		wantFault(t, "PERMUT", api.ENum, x...)
 	}
-	for _, x := range [][]float64{{-1, 0}, {-1, 5}, {5, -1}, {0, 1}, {0, 1000}, {1002, 0}, {1, 1001}, {500, 502}, {0x1p53, 0x1p53}, {-0.5, 1}, {-0x1p53, 0x1p53}} {
+	for _, x := range [][]float64{{-1, 0}, {-1, 5}, {5, -1}, {0, 1}, {0, 1000}, {1002, 0}, {1001, 1}, {1000, 2}, {501, 501}, {1, 2}, {1, 1000}, {2, 3}, {2.9, 3}, {500, 501}, {0x1p53, 0x1p53}, {-0.5, 1}, {-0x1p53, 0x1p53}} {
 		wantFault(t, "COMBINA", api.ENum, x...)
 	}
 }

@@ -31,7 +31,7 @@ func drawnBetween(x float64) func(n, k float64) api.Value {
 			return noNumber()
 		}
 		at := n + math.Floor(x*(k-n+1))
-		// a draw just below 1 may be rounded up to the number behind the last one
+		// sums of great numbers are rounded, and must not lead beyond the last one
 		return value.Reckon(min(at, k))
 	}
 }

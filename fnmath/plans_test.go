@@ -83,6 +83,9 @@ func countPlans() map[string]plan {
 		"COMBIN":     {"n n", func(m taken) api.Value { return choices(m.x[0], m.x[1]) }},
 		"COMBINA": {"n n", func(m taken) api.Value {
 			n, k := m.x[0], m.x[1]
+			if n < 0 || k < 0 || k > n {
+				return fault(6)
+			}
 			if n == 0 && k == 0 {
 				return num(1)
 			}
