@@ -152,9 +152,8 @@ func leastMultiple(l ...float64) api.Value {
 	}
 	m := 1
 	for _, n := range all {
-		if m == 0 || n == 0 {
-			m = 0
-			continue
+		if n == 0 {
+			return value.Num(0)
 		}
 		part := n / common(m, n)
 		// a quotient, since the product may leave its type
