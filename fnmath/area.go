@@ -1,9 +1,8 @@
 package fnmath
 
 import (
-	"iter"
-
 	"gridiron/api"
+	"gridiron/given"
 	"gridiron/value"
 )
 
@@ -14,7 +13,7 @@ func areas(least, most, code int, f func(v ...api.Value) float64) function {
 			return value.Err(code)
 		}
 		total := 0.0
-		for v := range places(args) {
+		for v := range given.Places(args...) {
 			if wrong, is := firstError(v); is {
 				return wrong
 			}
@@ -32,49 +31,6 @@ func alike(args []api.Arg) bool {
 		}
 	}
 	return true
-}
-
-// places goes through the places of areas of one size, row by row, and has the values that they have there.
-// It leaves out a place of which none of them tells anything: areas may have far more places than they tell of, and such a one adds nothing.
-func places(args []api.Arg) iter.Seq[[]api.Value] {
-	return func(yield func([]api.Value) bool) {
-		next := make([]int, len(args)) // of each area the first of its cells that was not gone through
-		for {
-			here, is := firstPlace(args, next)
-			if !is {
-				return
-			}
-			v := make([]api.Value, len(args))
-			for i, a := range args {
-				if next[i] < len(a.Cells) && place(a, next[i]) == here {
-					v[i] = a.Cells[next[i]].Val
-					next[i]++
-				}
-			}
-			if !yield(v) {
-				return
-			}
-		}
-	}
-}
-
-// firstPlace is the first place that an area tells of, from its next cell on.
-func firstPlace(args []api.Arg, next []int) (int, bool) {
-	first, is := 0, false
-	for i, a := range args {
-		if next[i] == len(a.Cells) {
-			continue
-		}
-		if here := place(a, next[i]); !is || here < first {
-			first, is = here, true
-		}
-	}
-	return first, is
-}
-
-// place is the number of the place at which a cell stands: row by row, from the left.
-func place(a api.Arg, cell int) int {
-	return a.Cells[cell].Row*a.Cols + a.Cells[cell].Col
 }
 
 func firstError(l []api.Value) (api.Value, bool) {
