@@ -2,7 +2,7 @@ package fnstat
 
 import (
 	"gridiron/api"
-	"gridiron/array"
+	"gridiron/given"
 	"gridiron/value"
 )
 
@@ -10,13 +10,7 @@ import (
 func count(args []api.Arg) api.Value {
 	n := 0
 	for _, a := range args {
-		if alone(a) && !a.Miss {
-			if value.AsNumber(array.Single(a)).Kind == api.VNum {
-				n++
-			}
-			continue
-		}
-		for _, p := range a.Cells {
+		for _, p := range given.Counting(a) {
 			if p.Val.Kind == api.VNum {
 				n++
 			}

@@ -6,7 +6,7 @@ import (
 
 	"gridiron/api"
 	"gridiron/array"
-	"gridiron/value"
+	"gridiron/given"
 )
 
 // Numbers are the numbers of an argument, or the code of the first error among them; with all, texts and truths of an area are numbers, too.
@@ -14,53 +14,25 @@ func Numbers(a api.Arg, all bool) ([]float64, int) {
 	if array.CheckArg(a) != api.OK {
 		return nil, api.EValue
 	}
-	if a.Miss {
-		return nil, 0
-	}
-	if alone(a) {
-		v := value.AsNumber(array.Single(a))
-		return appendNumber(nil, v, false)
-	}
-	var out []float64
-	for _, p := range a.Cells {
-		l, wrong := appendNumber(out, p.Val, all)
-		if wrong != 0 {
-			return nil, wrong
-		}
-		out = l
-	}
-	return out, 0
+	return numbersOf(all, a)
 }
 
-// alone tells whether an argument is one value that no reference has.
-func alone(a api.Arg) bool {
-	return !a.Ref && a.Rows == 1 && a.Cols == 1
-}
-
-// appendNumber is numbers with that of a value behind them, if it counts for one; or an error's code.
-func appendNumber(l []float64, v api.Value, all bool) ([]float64, int) {
-	switch {
-	case v.Kind == api.VErr:
-		return nil, v.Err
-	case v.Kind == api.VNum:
-		return append(l, v.Num), 0
-	case all && v.Yes:
-		return append(l, 1), 0
-	case all:
-		return append(l, 0), 0
-	}
-	return l, 0
-}
-
-// numbersOf are the numbers of several arguments, one behind the other, or the code of the first error among them.
+// numbersOf are the numbers of arguments that may be, one behind the other, or the code of the first error among them.
 func numbersOf(all bool, args ...api.Arg) ([]float64, int) {
 	var out []float64
 	for _, a := range args {
-		l, wrong := Numbers(a, all)
-		if wrong != 0 {
-			return nil, wrong
+		for _, p := range given.Counting(a) {
+			switch v := p.Val; {
+			case v.Kind == api.VErr:
+				return nil, v.Err
+			case v.Kind == api.VNum:
+				out = append(out, v.Num)
+			case all && v.Yes:
+				out = append(out, 1)
+			case all:
+				out = append(out, 0)
+			}
 		}
-		out = append(out, l...)
 	}
 	return out, 0
 }

@@ -25,7 +25,7 @@ func rank(args []api.Arg) api.Value {
 	if x.Kind == api.VErr {
 		return x
 	}
-	l, wrong := Numbers(args[1], false)
+	l, wrong := numbersOf(false, args[1])
 	if wrong != 0 {
 		return value.Err(wrong)
 	}
@@ -108,11 +108,11 @@ func standardize(args []api.Arg) api.Value {
 
 // frequency is how many numbers are not above each bin, and above all lesser ones; and at last how many are above all bins.
 func frequency(args []api.Arg) api.Arr {
-	l, wrong := Numbers(args[0], false)
+	l, wrong := numbersOf(false, args[0])
 	if wrong != 0 {
 		return array.One(value.Err(wrong))
 	}
-	bins, wrong := Numbers(args[1], false)
+	bins, wrong := numbersOf(false, args[1])
 	if wrong != 0 {
 		return array.One(value.Err(wrong))
 	}

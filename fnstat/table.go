@@ -96,7 +96,7 @@ func of(needs, code int, f func(l []float64) float64) func(l []float64) api.Valu
 // ranked is what a function makes of one argument's numbers and a single number.
 func ranked(take func(a api.Arg) api.Value, f func(l []float64, x float64) api.Value) func(args []api.Arg) api.Value {
 	return func(args []api.Arg) api.Value {
-		l, wrong := Numbers(args[0], false)
+		l, wrong := numbersOf(false, args[0])
 		if wrong != 0 {
 			return value.Err(wrong)
 		}

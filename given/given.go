@@ -68,7 +68,7 @@ func Or(take func(a api.Arg) api.Value, other api.Value) func(a api.Arg) api.Val
 func Numbers(args ...api.Arg) ([]float64, api.Value, bool) {
 	var out []float64
 	for _, a := range args {
-		for _, p := range counting(a) {
+		for _, p := range Counting(a) {
 			switch p.Val.Kind {
 			case api.VErr:
 				return nil, p.Val, false
@@ -80,8 +80,8 @@ func Numbers(args ...api.Arg) ([]float64, api.Value, bool) {
 	return out, api.Value{}, true
 }
 
-// counting are the places of an argument of which the numbers count; a single value that is no reference's counts as a number, whatever it is.
-func counting(a api.Arg) []api.Place {
+// Counting are the places of an argument among which its numbers are; a single value that is no reference's counts as a number, whatever it is.
+func Counting(a api.Arg) []api.Place {
 	if a.Ref || a.Miss || a.Rows > 1 || a.Cols > 1 {
 		return a.Cells
 	}

@@ -136,3 +136,21 @@ func TestNumbersAreNew(t *testing.T) {
 	}
 	wantNumbers(t, []float64{1, 2, 3}, api.Value{}, a)
 }
+
+// R7: the places among which an argument's numbers are.
+func TestCounting(t *testing.T) {
+	mixed := row(num(3), text("4"), truth(true), api.Value{}, fault(api.ENA))
+	for _, x := range []struct {
+		a    api.Arg
+		want []api.Place
+	}{
+		{mixed, mixed.Cells}, {refer(mixed), mixed.Cells}, {given.Missing(), nil}, {refer(given.Missing()), nil}, {row(api.Value{}, api.Value{}), nil},
+		{row(num(3)), []api.Place{{Val: num(3)}}}, {row(text("4")), []api.Place{{Val: num(4)}}}, {row(truth(true)), []api.Place{{Val: num(1)}}}, {row(api.Value{}), []api.Place{{Val: num(0)}}}, {row(text("x")), []api.Place{{Val: fault(api.EValue)}}}, {row(fault(api.ENA)), []api.Place{{Val: fault(api.ENA)}}},
+		{refer(row(text("4"))), []api.Place{{Val: text("4")}}}, {refer(row(api.Value{})), nil},
+		{api.Arg{Rows: 2, Cols: 1, Cells: []api.Place{{Row: 1, Val: text("4")}}}, []api.Place{{Row: 1, Val: text("4")}}},
+	} {
+		if got := given.Counting(x.a); !slices.Equal(got, x.want) {
+			t.Errorf("Counting of %v: %v, want %v", x.a, got, x.want)
+		}
+	}
+}

@@ -8,15 +8,17 @@ import (
 
 // Places goes through the places of areas that are of one size, row by row, and has the values that they have there.
 // It leaves out a place of which none of them tells anything: areas may have far more places than they tell of.
+// The list of values is the same one at each place, since there may be very many of them.
 func Places(areas ...api.Arg) iter.Seq[[]api.Value] {
 	return func(yield func([]api.Value) bool) {
 		next := make([]int, len(areas)) // of each area the first of its cells that was not gone through
+		v := make([]api.Value, len(areas))
 		for {
 			here, is := firstPlace(areas, next)
 			if !is {
 				return
 			}
-			v := make([]api.Value, len(areas))
+			clear(v)
 			for i, a := range areas {
 				if next[i] < len(a.Cells) && place(a, next[i]) == here {
 					v[i] = a.Cells[next[i]].Val
