@@ -2,6 +2,7 @@ package fnstat_test
 
 import (
 	"fmt"
+	"maps"
 	"math"
 	"slices"
 	"strings"
@@ -168,25 +169,22 @@ func arities() map[[2]int]string {
 	}
 }
 
-// all are the names of all functions, as the tests have them.
-func all() []string {
-	var out []string
-	for _, some := range arities() {
-		out = append(out, strings.Fields(some)...)
-	}
-	slices.Sort(out)
-	return out
-}
-
-// arity is how many arguments a function takes, as the tests have it.
-func arity(name string) (int, int) {
+// takes has how many arguments each function takes, as the tests have it.
+var takes = func() map[string][2]int {
+	out := map[string][2]int{}
 	for size, some := range arities() {
-		if slices.Contains(strings.Fields(some), name) {
-			return size[0], size[1]
+		for _, name := range strings.Fields(some) {
+			out[name] = size
 		}
 	}
-	panic(name)
-}
+	return out
+}()
+
+// all are the names of all functions, as the tests have them.
+func all() []string { return slices.Sorted(maps.Keys(takes)) }
+
+// arity is how many arguments a function takes, as the tests have it.
+func arity(name string) (int, int) { return takes[name][0], takes[name][1] }
 
 // good are arguments of which most functions make something, as many as are asked for.
 func good(n int) []api.Arg {

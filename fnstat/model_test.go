@@ -2,7 +2,6 @@ package fnstat_test
 
 import (
 	"math"
-	"slices"
 	"strings"
 
 	"gridiron/api"
@@ -18,11 +17,7 @@ type wrongAnswer int
 
 // model is what a function answers of arguments.
 func model(name string, args []api.Arg) (out api.Arr, is bool) {
-	if !slices.Contains(all(), name) {
-		return api.Arr{}, false
-	}
-	least, most := arity(name)
-	if len(args) < least || len(args) > most {
+	if least, most := arity(name); most == 0 || len(args) < least || len(args) > most {
 		return api.Arr{}, false
 	}
 	for _, a := range args {
