@@ -13,8 +13,7 @@ type where struct {
 	criteria []criterion
 }
 
-// asked is what pairs of an area and a criterion ask for; or an error.
-// The areas are to be as large as the first of all of them, or as another one.
+// asked is what pairs of an area and a criterion ask for, each area being as large as another one; or an error.
 func asked(size api.Arg, args []api.Arg) (where, api.Value) {
 	if len(args)%2 == 1 {
 		return where{}, value.Err(api.EValue)
