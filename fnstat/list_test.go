@@ -169,7 +169,7 @@ func TestCounts(t *testing.T) {
 func TestListsDrawn(t *testing.T) {
 	d := draws(2)
 	names := strings.Fields(arities()[[2]int{1, 32}])
-	for range 20000 {
+	for range 8000 {
 		name := pick(&d, names...)
 		check(t, name, d.arguments(name)...)
 	}

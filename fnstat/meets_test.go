@@ -142,7 +142,7 @@ func TestMeetsMalformed(t *testing.T) {
 // P18.1: drawn criteria and values.
 func TestMeetsDrawn(t *testing.T) {
 	d := draws(5)
-	for range 100000 {
+	for range 25000 {
 		v := d.value()
 		c := d.value()
 		if d.yes() {

@@ -157,11 +157,11 @@ func TestPairsTooGreat(t *testing.T) {
 func TestPairsDrawn(t *testing.T) {
 	d := draws(4)
 	names := append(ofPairs(), "FORECAST")
-	for range 20000 {
+	for range 8000 {
 		name := pick(&d, names...)
 		check(t, name, d.arguments(name)...)
 	}
-	for range 6000 {
+	for range 3000 {
 		rows, cols := 1+d.below(5), 1+d.below(3)
 		a, b := d.area(rows, cols), d.area(rows, cols)
 		for _, name := range ofPairs() {

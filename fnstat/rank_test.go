@@ -225,7 +225,7 @@ func TestManyBins(t *testing.T) {
 func TestRanksDrawn(t *testing.T) {
 	d := draws(3)
 	names := strings.Fields("LARGE SMALL PERCENTILE QUARTILE PERCENTRANK TRIMMEAN RANK STANDARDIZE FREQUENCY")
-	for range 20000 {
+	for range 8000 {
 		name := pick(&d, names...)
 		check(t, name, d.arguments(name)...)
 	}

@@ -50,7 +50,7 @@ func TestTwoKinds(t *testing.T) {
 				for j := range i {
 					for k, a := range l {
 						for m, b := range l {
-							if (k+m+i+j)%53 > 0 {
+							if (k+m+i+j)%97 > 0 {
 								continue
 							}
 							args := good(n)
